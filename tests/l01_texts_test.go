@@ -244,7 +244,7 @@ func TestChecks(t *testing.T) {
 }
 
 func TestConstantsOfChapter1(t *testing.T) {
-	got := fmt.Sprint(impl.MaxNumbers, impl.MaxValue, impl.MaxItems, impl.CheckSize)
+	got := fmt.Sprint(impl.MaxNumbers, int64(impl.MaxValue), impl.MaxItems, impl.CheckSize)
 	if want := "256 1000000000000000 64 65003"; got != want {
 		t.Errorf("constants: got %s, want %s", got, want)
 	}
