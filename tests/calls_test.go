@@ -74,6 +74,13 @@ func rawAll(list []reflect.Value) string {
 }
 
 func rawText(v reflect.Value) string {
+	if v.Kind() == reflect.Struct {
+		var b bytes.Buffer
+		for i := range v.NumField() {
+			b.WriteString(rawText(v.Field(i)))
+		}
+		return b.String()
+	}
 	switch x := v.Interface().(type) {
 	case float32:
 		return fmt.Sprintf("%08x;", math.Float32bits(x))
@@ -105,6 +112,10 @@ func scribble(v reflect.Value) {
 		v.SetComplex(complex(77, -77))
 	case reflect.Int64:
 		v.SetInt(77)
+	case reflect.Struct:
+		for i := range v.NumField() {
+			scribble(v.Field(i))
+		}
 	}
 }
 
@@ -313,19 +324,23 @@ func listsOf[T any](most int, edges []T) [][]T {
 	return [][]T{nil, {}, full[:1], edges, edges[2:5], full[:most:most], full}
 }
 
+func valuesByType(lists ...[]reflect.Value) map[reflect.Type][]reflect.Value {
+	values := map[reflect.Type][]reflect.Value{}
+	for _, list := range lists {
+		kind := list[0].Type()
+		values[kind] = append(values[kind], list...)
+	}
+	return values
+}
+
 // edgeValues has arguments for the functions of chapter 1.
 func edgeValues() map[reflect.Type][]reflect.Value {
-	values := map[reflect.Type][]reflect.Value{}
-	for _, list := range [][]reflect.Value{
+	return valuesByType(
 		valuesOf(edgeNumbers()...), valuesOf(edgeComplex()...), valuesOf(edgeLongs()...), valuesOf(edgeVectors()...),
 		valuesOf(edgeIntegers()...), valuesOf(edgeTexts()...), valuesOf(complex(1e300, math.NaN()), complex(math.Inf(1), -5e-324), 1),
 		valuesOf(listsOf(impl.MaxNumbers, edgeNumbers())...),
 		valuesOf(listsOf(impl.MaxNumbers, edgeComplex())...),
 		valuesOf(listsOf(impl.MaxItems, []int64{5, -6, 0, impl.MaxValue, -impl.MaxValue})...),
 		valuesOf([]int64{impl.MaxValue + 1}, []int64{0, -impl.MaxValue - 1}),
-	} {
-		kind := list[0].Type()
-		values[kind] = append(values[kind], list...)
-	}
-	return values
+	)
 }

@@ -74,12 +74,18 @@ func numbersOf(t *testing.T, words string) []float32 {
 // wantRows checks rows of the bits of arguments, a stroke, and the bits of results.
 func wantRows(t *testing.T, name, rows string, call func(in []float32) []float32) {
 	t.Helper()
+	wantToldRows(t, name, rows, func(in []float32) string { return wordsOf(call(in)) })
+}
+
+// wantToldRows does the same with results that are told in words, such as failures.
+func wantToldRows(t *testing.T, name, rows string, call func(in []float32) string) {
+	t.Helper()
 	for _, row := range strings.Split(strings.TrimSpace(rows), "\n") {
 		in, want, found := strings.Cut(row, "|")
 		if !found {
 			t.Fatalf("%s: no row: %q", name, row)
 		}
-		if got := wordsOf(call(numbersOf(t, in))); got != want {
+		if got := call(numbersOf(t, in)); got != want {
 			t.Errorf("%s of %s: got %s, want %s", name, in, got, want)
 		}
 	}
