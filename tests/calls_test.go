@@ -60,22 +60,22 @@ func describeAll(list []reflect.Value) string {
 func rawAll(list []reflect.Value) string {
 	var b bytes.Buffer
 	for _, v := range list {
-		if v.Kind() == reflect.Slice {
-			v = v.Slice(0, v.Cap())
-			fmt.Fprintf(&b, "%d:", v.Len())
-			for i := range v.Len() {
-				b.WriteString(rawText(v.Index(i)))
-			}
-			continue
-		}
 		b.WriteString(rawText(v))
 	}
 	return b.String()
 }
 
 func rawText(v reflect.Value) string {
-	if v.Kind() == reflect.Struct {
-		var b bytes.Buffer
+	var b bytes.Buffer
+	switch v.Kind() {
+	case reflect.Slice:
+		v = v.Slice(0, v.Cap())
+		fmt.Fprintf(&b, "%d:", v.Len())
+		for i := range v.Len() {
+			b.WriteString(rawText(v.Index(i)))
+		}
+		return b.String()
+	case reflect.Struct:
 		for i := range v.NumField() {
 			b.WriteString(rawText(v.Field(i)))
 		}
@@ -92,16 +92,25 @@ func rawText(v reflect.Value) string {
 
 // ownCopy returns the same value in other memory and with spare capacity of other contents.
 func ownCopy(v reflect.Value) reflect.Value {
-	if v.Kind() != reflect.Slice {
-		return v
+	switch v.Kind() {
+	case reflect.Slice:
+		c := reflect.MakeSlice(v.Type(), v.Len(), v.Len()+5)
+		for i := range v.Len() {
+			c.Index(i).Set(ownCopy(v.Index(i)))
+		}
+		all := c.Slice(0, c.Cap())
+		for i := v.Len(); i < all.Len(); i++ {
+			scribble(all.Index(i))
+		}
+		return c
+	case reflect.Struct:
+		c := reflect.New(v.Type()).Elem()
+		for i := range v.NumField() {
+			c.Field(i).Set(ownCopy(v.Field(i)))
+		}
+		return c
 	}
-	c := reflect.MakeSlice(v.Type(), v.Len(), v.Len()+5)
-	reflect.Copy(c, v)
-	all := c.Slice(0, c.Cap())
-	for i := v.Len(); i < all.Len(); i++ {
-		scribble(all.Index(i))
-	}
-	return c
+	return v
 }
 
 func scribble(v reflect.Value) {
@@ -116,20 +125,56 @@ func scribble(v reflect.Value) {
 		for i := range v.NumField() {
 			scribble(v.Field(i))
 		}
+	case reflect.Slice:
+		spoil(v)
 	}
 }
 
-// spoil overwrites all memory of results: no later call may see this.
-func spoil(results []reflect.Value) {
-	for _, v := range results {
-		if v.Kind() != reflect.Slice {
-			continue
-		}
-		all := v.Slice(0, v.Cap())
+// spoil overwrites all memory of a result: no later call may see this.
+func spoil(v reflect.Value) {
+	for _, slice := range slicesIn(v) {
+		all := slice.Slice(0, slice.Cap())
 		for i := range all.Len() {
 			scribble(all.Index(i))
 		}
 	}
+}
+
+// slicesIn returns all slices of which a value is made.
+func slicesIn(v reflect.Value) []reflect.Value {
+	var list []reflect.Value
+	switch v.Kind() {
+	case reflect.Slice:
+		list = append(list, v)
+		for i := range v.Len() {
+			list = append(list, slicesIn(v.Index(i))...)
+		}
+	case reflect.Struct:
+		for i := range v.NumField() {
+			list = append(list, slicesIn(v.Field(i))...)
+		}
+	}
+	return list
+}
+
+// shareMemory reports whether two slices of results have memory in common, be it spare.
+func shareMemory(results []reflect.Value) bool {
+	var all []reflect.Value
+	for _, v := range results {
+		all = append(all, slicesIn(v)...)
+	}
+	for i, a := range all {
+		for _, b := range all[:i] {
+			if a.Cap() > 0 && b.Cap() > 0 && a.Pointer() < endOf(b) && b.Pointer() < endOf(a) {
+				return true
+			}
+		}
+	}
+	return false
+}
+
+func endOf(slice reflect.Value) uintptr {
+	return slice.Pointer() + uintptr(slice.Cap())*slice.Type().Elem().Size()
 }
 
 func zerosWhenFailed(results []reflect.Value) bool {
@@ -138,10 +183,7 @@ func zerosWhenFailed(results []reflect.Value) bool {
 		return true
 	}
 	for _, v := range results[:last] {
-		if v.Kind() == reflect.Slice && v.Len() == 0 {
-			continue
-		}
-		if !v.IsZero() || describe(v) != describe(reflect.Zero(v.Type())) {
+		if describe(v) != describe(reflect.Zero(v.Type())) {
 			return false
 		}
 	}
@@ -180,7 +222,12 @@ func pureCall(f reflect.Value, args []reflect.Value) (told, wrong string) {
 	if !zerosWhenFailed(first) {
 		return told, "fails with a result that is not zero"
 	}
-	spoil(first)
+	if shareMemory(first) {
+		return told, "returns slices that share memory"
+	}
+	for _, v := range first {
+		spoil(v)
+	}
 	if rawAll(mine) != before {
 		return told, "modifies an argument, or shares its memory"
 	}
