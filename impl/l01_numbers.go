@@ -106,9 +106,12 @@ func NarrowComplex(x complex128) complex64 {
 func MulComplex(x, y complex64) complex64 { return NarrowComplex(exactProduct(x, y)) }
 
 // exactProduct multiplies in 64-bit numbers, in which the products of 32-bit parts are exact.
-func exactProduct(x, y complex64) complex128 {
-	a, b := float64(real(x)), float64(imag(x))
-	c, d := float64(real(y)), float64(imag(y))
+func exactProduct(x, y complex64) complex128 { return longTimes(complex128(x), complex128(y)) }
+
+// longTimes multiplies complex numbers with 64-bit parts.
+func longTimes(x, y complex128) complex128 {
+	a, b := real(x), imag(x)
+	c, d := real(y), imag(y)
 	return complex(longProduct(a, c)-longProduct(b, d), longProduct(a, d)+longProduct(b, c))
 }
 
@@ -294,7 +297,7 @@ func LogNumber(x float32) float32 {
 }
 
 type numeral interface {
-	float32 | complex64
+	float32 | complex64 | complex128
 }
 
 func sumOf[T numeral](list []T) (T, bool) {
