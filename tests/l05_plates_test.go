@@ -205,8 +205,24 @@ func TestArcs(t *testing.T) {
 		wantNoPlate(t, "an odd rise of one panel")(impl.ArcPlate(1, 1, odd))
 	}
 	wantNoPlate(t, "panels that are too long")(impl.ArcPlate(2, 3e38, 3.4e38))
-	// The arc is told of a flat plate, of which there is none here.
-	wantNoPlate(t, "an arc over one place")(impl.ArcPlate(2, at(1), 1))
+}
+
+// The arc alone must be valid: the flat plate of which it is told may have panels without length.
+func TestArcsOverShortPlates(t *testing.T) {
+	least := at(1)
+	wantPlate(t, "an arc over one place", plate(0, 0, 0, 1, 0, 0))(impl.ArcPlate(2, least, 1))
+	wantPlate(t, "a long arc over one place", plate(0, 0, 0, 3e38, 0, 0))(impl.ArcPlate(2, least, 3e38))
+	wantPlate(t, "an arc over three places", plate(-least, 0, 0, 1.5, 0, 2, 0, 1.5, least, 0))(impl.ArcPlate(4, 2*least, 2))
+	wantPlate(t, "the least arc", plate(0, 0, 0, least, 0, 0))(impl.ArcPlate(2, least, least))
+	// The real part of i times a number less than 0 is -0.
+	wantPlate(t, "an arc under one place", plate(minusZero, 0, 0, -1, 0, 0))(impl.ArcPlate(2, least, -1))
+	for _, panels := range []int64{1, 2, 8, impl.MaxPanels} {
+		wantNoPlate(t, fmt.Sprint(panels, " panels at one place"))(impl.ArcPlate(panels, least, 0))
+		wantNoPlate(t, fmt.Sprint(panels, " panels at one place, -0"))(impl.ArcPlate(panels, least, minusZero))
+	}
+	wantNoPlate(t, "one panel at one place")(impl.ArcPlate(1, least, 1))
+	wantNoPlate(t, "an arc that rises too little for its panels")(impl.ArcPlate(impl.MaxPanels, least, least))
+	wantNoPlate(t, "an arc whose middle panel has no length")(impl.ArcPlate(3, 2*least, 2*least))
 }
 
 func TestMovedPlates(t *testing.T) {
