@@ -9,6 +9,7 @@ import (
 	"math"
 	"os"
 	"reflect"
+	"runtime"
 	"strings"
 	"testing"
 	"time"
@@ -298,6 +299,18 @@ func wantAllFunctions(t *testing.T, file string, functions map[string]any) {
 	if count != len(functions) {
 		t.Errorf("%s has %d functions, the table %d", file, count, len(functions))
 	}
+}
+
+// wantNoWorkersSince checks that there are no more workers than before: one that has ended its work may need a moment to end.
+func wantNoWorkersSince(t *testing.T, before int) {
+	t.Helper()
+	for range 100 {
+		if runtime.NumGoroutine() <= before {
+			return
+		}
+		time.Sleep(10 * time.Millisecond)
+	}
+	t.Errorf("%d workers are left behind", runtime.NumGoroutine()-before)
 }
 
 func valuesOf[T any](list ...T) []reflect.Value {

@@ -78,17 +78,7 @@ func TestAreWhirls(t *testing.T) {
 	for _, list := range [][]impl.Whirl{nil, {}, {whirl(0, minusZero, at(1))}, {whirl(3e38, -3e38, 3e38)}, manyWhirls(impl.MaxWhirls)} {
 		wantBool(t, "whirls", impl.AreWhirls(list), true)
 	}
-	bad := [][]impl.Whirl{manyWhirls(impl.MaxWhirls + 1), make([]impl.Whirl, 5000)}
-	for _, odd := range []float32{at(infinity), at(signBit + infinity), at(noNumber), at(0xffc00001)} {
-		for _, i := range []int{0, 2, 7} {
-			for _, w := range []impl.Whirl{whirl(odd, 1, 1), whirl(1, odd, 1), whirl(1, 1, odd)} {
-				list := manyWhirls(8)
-				list[i] = w
-				bad = append(bad, list)
-			}
-		}
-	}
-	for i, list := range bad {
+	for i, list := range oddLists() {
 		wantBool(t, fmt.Sprint("list ", i), impl.AreWhirls(list), false)
 		for name, call := range withLists() {
 			wantTold(t, fmt.Sprint(name, " of list ", i), call(list), "no")

@@ -5,7 +5,6 @@ import (
 	"reflect"
 	"runtime"
 	"testing"
-	"time"
 
 	"loop.example/g01266/impl"
 )
@@ -71,12 +70,5 @@ func TestPromise1Workers(t *testing.T) {
 		_, ok := impl.StepThreads(list, 0.5, tick)
 		wantBool(t, "a step", ok, i%2 == 0)
 	}
-	// A worker that has told its result may need a moment to end.
-	for range 100 {
-		if runtime.NumGoroutine() <= before {
-			return
-		}
-		time.Sleep(10 * time.Millisecond)
-	}
-	t.Errorf("%d workers are left behind", runtime.NumGoroutine()-before)
+	wantNoWorkersSince(t, before)
 }

@@ -29,6 +29,21 @@ func manyWhirls(count int) []impl.Whirl {
 	return list
 }
 
+// oddLists has lists that are none of whirls: with too many, and with numbers that are not finite.
+func oddLists() [][]impl.Whirl {
+	bad := [][]impl.Whirl{manyWhirls(impl.MaxWhirls + 1), make([]impl.Whirl, 5000)}
+	for _, odd := range oddTicks() {
+		for _, i := range []int{0, 2, 7} {
+			for _, w := range []impl.Whirl{whirl(odd, 1, 1), whirl(1, odd, 1), whirl(1, 1, odd)} {
+				list := manyWhirls(8)
+				list[i] = w
+				bad = append(bad, list)
+			}
+		}
+	}
+	return bad
+}
+
 func wordsOfWhirls(list []impl.Whirl) string {
 	var all []float32
 	for _, w := range list {
