@@ -30,6 +30,9 @@ const firstWhole = 1 << 52
 // emptyText stands for every empty list.
 const emptyText = "none"
 
+// betweenItems stands between the items of lists of numbers.
+const betweenItems = ","
+
 // Vector has three numbers.
 type Vector struct {
 	X float32
@@ -407,8 +410,8 @@ func ReadVector(s string) (Vector, bool) {
 	return Vector{list[0], list[1], list[2]}, true
 }
 
-// itemsText returns the texts of at most most items with commas between them.
-func itemsText[T any](list []T, most int, textOf func(T) string) (string, bool) {
+// itemsText returns the texts of at most most items, with a text between two of them.
+func itemsText[T any](list []T, most int, between string, textOf func(T) string) (string, bool) {
 	if len(list) > most {
 		return "", false
 	}
@@ -419,18 +422,18 @@ func itemsText[T any](list []T, most int, textOf func(T) string) (string, bool) 
 	for i, x := range list {
 		words[i] = textOf(x)
 	}
-	return strings.Join(words, ","), true
+	return strings.Join(words, between), true
 }
 
 // readItems returns the list of at most most items that itemsText writes as s.
-func readItems[T any](s string, most int, read func(string) (T, bool)) ([]T, bool) {
+func readItems[T any](s string, most int, between string, read func(string) (T, bool)) ([]T, bool) {
 	if s == emptyText {
 		return nil, true
 	}
-	if strings.Count(s, ",") >= most {
+	if strings.Count(s, between) >= most {
 		return nil, false
 	}
-	words := strings.Split(s, ",")
+	words := strings.Split(s, between)
 	list := make([]T, len(words))
 	for i, word := range words {
 		x, ok := read(word)
@@ -478,16 +481,24 @@ func readComplexNumber(s string) (complex64, bool) {
 }
 
 // NumbersText returns the text of numbers.
-func NumbersText(list []float32) (string, bool) { return itemsText(list, MaxNumbers, numberText) }
+func NumbersText(list []float32) (string, bool) {
+	return itemsText(list, MaxNumbers, betweenItems, numberText)
+}
 
 // ReadNumbers returns the numbers with the given text.
-func ReadNumbers(s string) ([]float32, bool) { return readItems(s, MaxNumbers, readNumber) }
+func ReadNumbers(s string) ([]float32, bool) {
+	return readItems(s, MaxNumbers, betweenItems, readNumber)
+}
 
 // ComplexText returns the text of complex numbers.
-func ComplexText(list []complex64) (string, bool) { return itemsText(list, MaxNumbers, complexText) }
+func ComplexText(list []complex64) (string, bool) {
+	return itemsText(list, MaxNumbers, betweenItems, complexText)
+}
 
 // ReadComplex returns the complex numbers with the given text.
-func ReadComplex(s string) ([]complex64, bool) { return readItems(s, MaxNumbers, readComplexNumber) }
+func ReadComplex(s string) ([]complex64, bool) {
+	return readItems(s, MaxNumbers, betweenItems, readComplexNumber)
+}
 
 // IsName reports whether s is a name.
 func IsName(s string) bool {
@@ -524,11 +535,11 @@ func ListText(list []int64) (string, bool) {
 			return "", false
 		}
 	}
-	return itemsText(list, MaxItems, Decimal)
+	return itemsText(list, MaxItems, betweenItems, Decimal)
 }
 
 // ReadList returns the list with the given text.
-func ReadList(s string) ([]int64, bool) { return readItems(s, MaxItems, ReadDecimal) }
+func ReadList(s string) ([]int64, bool) { return readItems(s, MaxItems, betweenItems, ReadDecimal) }
 
 // CheckOf returns the check number of a text.
 func CheckOf(start int64, s string) (int64, bool) {
